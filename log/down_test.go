@@ -18,7 +18,7 @@ func wantRefused(t *testing.T, d *dev.Device, j *log.Journal, e api.Errno) {
 		want(t, "Area", got, e)
 		l, got := j.Records()
 		want(t, "Records", got, e)
-		if len(area) != 0 || len(l) != 0 || j.Room() != 0 {
+		if len(area) != 0 || len(l) != 0 || j.Room() != 0 || j.Round() != 0 {
 			t.Errorf("something is told beside an error: %s", told(j))
 		}
 		for _, many := range []int{0, 1, 10, 127, 128, 1 << 20, 1<<20 + 1} {
@@ -38,9 +38,6 @@ func TestNoJournal(t *testing.T) {
 	copied := *j
 	for _, none := range []*log.Journal{nil, {}, new(log.Journal), &copied} {
 		wantRefused(t, d, none, api.ErrNil)
-		if none.Round() != 0 {
-			t.Errorf("Round: %d", none.Round())
-		}
 	}
 	p.wantAlike(t, d, j)
 }
@@ -64,9 +61,6 @@ func TestDown(t *testing.T) {
 		wantRefused(t, d, j, api.ErrDown)
 		want(t, "Wake", d.Wake(0), api.OK)
 		wantRefused(t, d, j, api.ErrDown)
-		if j.Round() != 3 {
-			t.Errorf("Round: %d", j.Round())
-		}
 		p.wantAlike(t, d, open(t, d, small))
 		wantRefused(t, d, j, api.ErrDown)
 	}
@@ -101,6 +95,28 @@ func TestDownAtFuses(t *testing.T) {
 			d.Wake(-1)
 			wantRefused(t, d, j, e)
 		}
+	}
+}
+
+// P5.4, R2: of one that is down Round is 0, as Room is, whatever round it had.
+func TestRoundOfDown(t *testing.T) {
+	for many := range 4 {
+		d, j, p := formatted(t, small)
+		for range many {
+			want(t, "Append", j.Append(row(1, 9)), p.append(t, row(1, 9)))
+		}
+		if j.Round() != many+1 {
+			t.Errorf("Round: %d", j.Round())
+		}
+		d.Fuse(1)
+		want(t, "Append of one that crashes", j.Append(row(2, 70)), api.ErrDown)
+		for range 2 {
+			if j.Round() != 0 || j.Room() != 0 {
+				t.Errorf("down: Round %d, Room %d", j.Round(), j.Room())
+			}
+			d.Wake(0)
+		}
+		p.wantAlike(t, d, open(t, d, small))
 	}
 }
 
